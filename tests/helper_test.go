@@ -1,0 +1,266 @@
+package tests
+
+import (
+	"math"
+	"slices"
+)
+
+// A place that is written nowhere keeps this number.
+const untouched = -77
+
+func copied(t [][]int) [][]int {
+	var rows [][]int
+	for _, row := range t {
+		rows = append(rows, slices.Clone(row))
+	}
+	return rows
+}
+
+func equalTables(t, u [][]int) bool {
+	return slices.EqualFunc(t, u, func(a, b []int) bool { return slices.Equal(a, b) })
+}
+
+func tableBy(size int, product func(a, b int) int) [][]int {
+	t := make([][]int, size)
+	for a := range t {
+		t[a] = make([]int, size)
+		for b := range t {
+			t[a][b] = product(a, b)
+		}
+	}
+	return t
+}
+
+// allTables yields each table of so many things; the rows are used again for the next one.
+func allTables(size int) func(yield func([][]int) bool) {
+	return func(yield func([][]int) bool) {
+		t := tableBy(size, func(a, b int) int { return 0 })
+		for {
+			if !yield(t) || !countedUp(t) {
+				return
+			}
+		}
+	}
+}
+
+func countedUp(t [][]int) bool {
+	for _, row := range t {
+		for b := range row {
+			if row[b]++; row[b] < len(t) {
+				return true
+			}
+			row[b] = 0
+		}
+	}
+	return false
+}
+
+func smallTables(yield func([][]int) bool) {
+	for size := 1; size <= 3; size++ {
+		for t := range allTables(size) {
+			if !yield(t) {
+				return
+			}
+		}
+	}
+}
+
+// dice yields the same numbers each time, so that no test depends on chance.
+type dice uint32
+
+func (d *dice) below(n int) int {
+	*d = *d*1664525 + 1013904223
+	return int(*d>>16) % n
+}
+
+func (d *dice) table(size int) [][]int {
+	return tableBy(size, func(a, b int) int { return d.below(size) })
+}
+
+func signsTable() [][]int {
+	return [][]int{{0, 1, 2}, {1, 1, 1}, {2, 2, 2}}
+}
+
+func zeros(size int) [][]int {
+	return tableBy(size, func(a, b int) int { return 0 })
+}
+
+func firsts(size int) [][]int {
+	return tableBy(size, func(a, b int) int { return a })
+}
+
+func seconds(size int) [][]int {
+	return tableBy(size, func(a, b int) int { return b })
+}
+
+func round(size int) [][]int {
+	return tableBy(size, func(a, b int) int { return (a + b) % size })
+}
+
+func least(size int) [][]int {
+	return tableBy(size, func(a, b int) int { return min(a, b) })
+}
+
+func rectangle(columns, size int) [][]int {
+	return tableBy(size, func(a, b int) int { return a/columns*columns + b%columns })
+}
+
+// lastBracket has brackets that matter only where all three things are the last one.
+func lastBracket(size int) [][]int {
+	t := zeros(size)
+	t[size-1][size-1] = size - 2
+	t[size-1][size-2] = 1
+	return t
+}
+
+// groupedTables returns tables of each size in which brackets do not matter.
+func groupedTables() [][][]int {
+	list := [][][]int{signsTable(), rectangle(2, 4), rectangle(2, 6), rectangle(3, 6), rectangle(4, 8), rectangle(3, 9)}
+	for size := 1; size <= 9; size++ {
+		list = append(list, zeros(size), firsts(size), seconds(size), round(size), least(size))
+	}
+	return list
+}
+
+// looseTables returns tables in which brackets matter.
+func looseTables() [][][]int {
+	list := [][][]int{{{1, 0}, {0, 0}}, {{0, 0}, {1, 0}}}
+	for size := 3; size <= 9; size++ {
+		less := tableBy(size, func(a, b int) int { return (a - b + size) % size })
+		list = append(list, less, lastBracket(size))
+	}
+	return list
+}
+
+// someTables returns tables of every size, in order: with brackets that do not matter, that do, and by dice.
+func someTables() [][][]int {
+	list := append(groupedTables(), looseTables()...)
+	d := dice(1)
+	for size := 1; size <= 9; size++ {
+		for range 6 {
+			list = append(list, d.table(size))
+		}
+	}
+	return list
+}
+
+func notTables() [][][]int {
+	list := [][][]int{
+		nil, {}, {nil}, {{}}, {{0, 0}}, {{0}, {0}}, {{1}}, {{-1}},
+		{{0, 1}, {1}}, {{0}, {1, 0}}, {{0, 1}, {1, 0, 0}}, {{0, 1, 0}, {1, 0}}, {{0, 1}, {}}, {{0, 1}, nil}, {nil, {0, 1}},
+		{{0, 1}, {1, 2}}, {{2, 1}, {1, 1}}, {{0, 0}, {0, -1}}, {{-1, 0}, {0, 0}},
+		{{0, 1}}, {{0, 1}, {1, 0}, {0, 0}}, {{0, 0, 0}, {0, 0, 0}},
+		{{math.MaxInt}}, {{math.MinInt}}, {{0, 0}, {math.MinInt, 0}}, {{0, math.MaxInt}, {0, 0}},
+	}
+	for _, size := range []int{10, 11, 16, 64} {
+		list = append(list, zeros(size), firsts(size))
+	}
+	for size := 1; size <= 9; size++ {
+		list = append(list, spoiled(size)...)
+	}
+	return list
+}
+
+// spoiled returns tables of a size with one fault each, at the first place and at the last one.
+func spoiled(size int) [][][]int {
+	last := size - 1
+	var list [][][]int
+	for _, fault := range []int{-1, size, 9, 1 << 40, math.MinInt} {
+		front, back := zeros(size), zeros(size)
+		front[0][0], back[last][last] = fault, fault
+		list = append(list, front, back)
+	}
+	for _, place := range []int{0, last} {
+		short, long := zeros(size), zeros(size)
+		short[place] = short[place][:last]
+		long[place] = append(long[place], 0)
+		list = append(list, short, long)
+	}
+	return append(list, zeros(size)[:last], append(zeros(size), make([]int, size)))
+}
+
+// thingsIn returns the things of a set in ascending order.
+func thingsIn(set int) []int {
+	var things []int
+	for thing := 0; set>>thing != 0; thing++ {
+		if set>>thing&1 == 1 {
+			things = append(things, thing)
+		}
+	}
+	return things
+}
+
+// notSets returns sets that a table of so many things has not.
+func notSets(size int) []int {
+	return []int{-1, -2, -(1 << size), math.MinInt, 1 << size, 1<<size + 1, 1 << (size + 1), 1 << 40, math.MaxInt}
+}
+
+// roomy returns a copy with room behind each row and behind all of them, so that a write there shows.
+func roomy(t [][]int) [][]int {
+	wide := make([][]int, len(t)+2)
+	for a := range wide {
+		if a < len(t) {
+			wide[a] = roomyRow(t[a])
+		} else {
+			wide[a] = []int{untouched}
+		}
+	}
+	return wide[:len(t)]
+}
+
+func roomyRow(row []int) []int {
+	wide := append(slices.Clone(row), untouched, untouched)
+	return wide[:len(row)]
+}
+
+// whole returns all that a slice of rows can reach.
+func whole(t [][]int) [][]int {
+	var rows [][]int
+	for _, row := range t[:cap(t)] {
+		rows = append(rows, slices.Clone(row[:cap(row)]))
+	}
+	return rows
+}
+
+// apart reports whether no two of all rows, and no two of the tables, share memory; it writes to all of them.
+func apart(tables [][][]int, single ...[]int) bool {
+	rows := slices.Clone(single)
+	for _, t := range tables {
+		for _, row := range t[:cap(t)] {
+			rows = append(rows, row)
+		}
+	}
+	return rowsApart(rows) && tablesApart(tables)
+}
+
+func rowsApart(rows [][]int) bool {
+	for i, row := range rows {
+		for k := range row[:cap(row)] {
+			row[:cap(row)][k] = i
+		}
+	}
+	for i, row := range rows {
+		for _, x := range row[:cap(row)] {
+			if x != i {
+				return false
+			}
+		}
+	}
+	return true
+}
+
+func tablesApart(tables [][][]int) bool {
+	for i, t := range tables {
+		for k := range t[:cap(t)] {
+			t[:cap(t)][k] = []int{i}
+		}
+	}
+	for i, t := range tables {
+		for _, row := range t[:cap(t)] {
+			if row[0] != i {
+				return false
+			}
+		}
+	}
+	return true
+}
