@@ -113,6 +113,70 @@ func lastBracket(size int) [][]int {
 	return t
 }
 
+// middle has things that are their own squares, in either order, and brackets that matter; the size is odd.
+func middle(size int) [][]int {
+	return tableBy(size, func(a, b int) int { return (a + b) * (size + 1) / 2 % size })
+}
+
+// forked has a zero and things above it of which each two have the zero as their product.
+func forked(size int) [][]int {
+	return tableBy(size, func(a, b int) int {
+		if a == b {
+			return a
+		}
+		return 0
+	})
+}
+
+// joined has all sets of so many letters but the empty one, and both together as products.
+func joined(letters int) [][]int {
+	return tableBy(1<<letters-1, func(a, b int) int { return ((a + 1) | (b + 1)) - 1 })
+}
+
+// withZero puts a zero behind the last thing.
+func withZero(t [][]int) [][]int {
+	last := len(t)
+	return tableBy(last+1, func(a, b int) int {
+		if a == last || b == last {
+			return last
+		}
+		return t[a][b]
+	})
+}
+
+// withOne puts a one behind the last thing.
+func withOne(t [][]int) [][]int {
+	last := len(t)
+	return tableBy(last+1, func(a, b int) int {
+		switch {
+		case a == last:
+			return b
+		case b == last:
+			return a
+		}
+		return t[a][b]
+	})
+}
+
+// withTwin puts behind the last thing one that multiplies as a thing does, and is no product: not even of itself.
+func withTwin(t [][]int, thing int) [][]int {
+	as := func(a int) int {
+		if a == len(t) {
+			return thing
+		}
+		return a
+	}
+	return tableBy(len(t)+1, func(a, b int) int { return t[as(a)][as(b)] })
+}
+
+// moved gives each thing a number that is higher by so many, and the last ones the lowest.
+func moved(t [][]int, by int) [][]int {
+	size := len(t)
+	to := func(a int) int { return (a + by) % size }
+	back := func(a int) int { return (a + size - by%size) % size }
+	return tableBy(size, func(a, b int) int { return to(t[back(a)][back(b)]) })
+}
+
 // groupedTables returns tables of each size in which brackets do not matter.
 func groupedTables() [][][]int {
 	list := [][][]int{signsTable(), rectangle(2, 4), rectangle(2, 6), rectangle(3, 6), rectangle(4, 8), rectangle(3, 9)}

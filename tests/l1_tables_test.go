@@ -184,10 +184,8 @@ func TestP2GroupedEdges(t *testing.T) {
 func TestP2GroupedOneFault(t *testing.T) {
 	x := lastBracket(9)
 	for from := range 9 {
-		to := func(a int) int { return (a + from) % 9 }
-		back := func(a int) int { return (a + 9 - from) % 9 }
-		moved := tableBy(9, func(a, b int) int { return to(x[back(a)][back(b)]) })
-		if impl.GroupedOk(moved) || impl.GroupedOk(impl.TurnedOf(moved)) {
+		y := moved(x, from)
+		if impl.GroupedOk(y) || impl.GroupedOk(impl.TurnedOf(y)) {
 			t.Fatal(from)
 		}
 	}
