@@ -177,6 +177,45 @@ func moved(t [][]int, by int) [][]int {
 	return tableBy(size, func(a, b int) int { return to(t[back(a)][back(b)]) })
 }
 
+// scattered is a rectangle of so many columns of which each thing lies at the place that the order tells for it, counted row by row.
+func scattered(columns int, order []int) [][]int {
+	return tableBy(len(order), func(a, b int) int {
+		return slices.Index(order, order[a]/columns*columns+order[b]%columns)
+	})
+}
+
+// allOrders returns each order of the numbers below one.
+func allOrders(size int) [][]int {
+	if size == 0 {
+		return [][]int{{}}
+	}
+	var list [][]int
+	for _, shorter := range allOrders(size - 1) {
+		for place := range size {
+			list = append(list, slices.Insert(slices.Clone(shorter), place, size-1))
+		}
+	}
+	return list
+}
+
+func (d *dice) order(size int) []int {
+	var order []int
+	for next := range size {
+		order = slices.Insert(order, d.below(next+1), next)
+	}
+	return order
+}
+
+// mixedSides has a first or a last thing as the product of each two things, so that each two are a rectangle, but brackets matter.
+func mixedSides(size int) [][]int {
+	return tableBy(size, func(a, b int) int {
+		if (a+b)%2 == 1 {
+			return a
+		}
+		return b
+	})
+}
+
 // groupedTables returns tables of each size in which brackets do not matter.
 func groupedTables() [][][]int {
 	list := [][][]int{signsTable(), rectangle(2, 4), rectangle(2, 6), rectangle(3, 6), rectangle(4, 8), rectangle(3, 9)}
