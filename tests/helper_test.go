@@ -177,6 +177,33 @@ func moved(t [][]int, by int) [][]int {
 	return tableBy(size, func(a, b int) int { return to(t[back(a)][back(b)]) })
 }
 
+// renumbered has at each place the thing that the order tells for it.
+func renumbered(t [][]int, order []int) [][]int {
+	return tableBy(len(order), func(a, b int) int {
+		return slices.Index(order, t[order[a]][order[b]])
+	})
+}
+
+// stacked has the things of all tables, of which those of an earlier one are the products with those of later ones.
+func stacked(tables ...[][]int) [][]int {
+	var part, first []int
+	for i, t := range tables {
+		from := len(part)
+		for range t {
+			part, first = append(part, i), append(first, from)
+		}
+	}
+	return tableBy(len(part), func(a, b int) int {
+		switch {
+		case part[a] < part[b]:
+			return a
+		case part[a] > part[b]:
+			return b
+		}
+		return first[a] + tables[part[a]][a-first[a]][b-first[a]]
+	})
+}
+
 // scattered is a rectangle of so many columns of which each thing lies at the place that the order tells for it, counted row by row.
 func scattered(columns int, order []int) [][]int {
 	return tableBy(len(order), func(a, b int) int {
