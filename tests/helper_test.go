@@ -233,6 +233,28 @@ func (d *dice) order(size int) []int {
 	return order
 }
 
+// inOtherOrders returns each of a list as it is, and with its things in other orders: in all of them where these are few.
+func inOtherOrders[K interface {
+	inOrder(order []int) K
+	size() int
+}](known []K) []K {
+	d := dice(21)
+	var list []K
+	for _, k := range known {
+		list = append(list, k)
+		if k.size() <= 5 {
+			for _, order := range allOrders(k.size()) {
+				list = append(list, k.inOrder(order))
+			}
+			continue
+		}
+		for range 25 {
+			list = append(list, k.inOrder(d.order(k.size())))
+		}
+	}
+	return list
+}
+
 // mixedSides has a first or a last thing as the product of each two things, so that each two are a rectangle, but brackets matter.
 func mixedSides(size int) [][]int {
 	return tableBy(size, func(a, b int) int {
@@ -323,6 +345,11 @@ func thingsIn(set int) []int {
 // notSets returns sets that a table of so many things has not.
 func notSets(size int) []int {
 	return []int{-1, -2, -(1 << size), math.MinInt, 1 << size, 1<<size + 1, 1 << (size + 1), 1 << 40, math.MaxInt}
+}
+
+// outside returns numbers that none of so many things, or of so many levels, has.
+func outside(count int) []int {
+	return []int{-1, -2, -count, -9, math.MinInt, count, count + 1, count + 9, 9, 10, 64, 1 << 32, 1 << 40, math.MaxInt}
 }
 
 // roomy returns a copy with room behind each row and behind all of them, so that a write there shows.

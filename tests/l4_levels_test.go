@@ -1,7 +1,6 @@
 package tests
 
 import (
-	"math"
 	"slices"
 	"testing"
 
@@ -22,6 +21,10 @@ func (k leveledBand) inOrder(order []int) leveledBand {
 		names = append(names, k.names[thing])
 	}
 	return leveledBand{renumbered(k.table, order), names, k.meeting}
+}
+
+func (k leveledBand) size() int {
+	return len(k.table)
 }
 
 func (k leveledBand) levels() []int {
@@ -134,26 +137,6 @@ func oneThingEach() []leveledBand {
 	return list
 }
 
-// inOtherOrders returns each band as it is, and with its things in other orders: in all of them where these are few.
-func inOtherOrders(bands []leveledBand) []leveledBand {
-	d := dice(21)
-	var list []leveledBand
-	for _, k := range bands {
-		list = append(list, k)
-		size := len(k.table)
-		if size <= 5 {
-			for _, order := range allOrders(size) {
-				list = append(list, k.inOrder(order))
-			}
-			continue
-		}
-		for range 25 {
-			list = append(list, k.inOrder(d.order(size)))
-		}
-	}
-	return list
-}
-
 func leveledBands() []leveledBand {
 	return inOtherOrders(slices.Concat(overLevels(), oneLevelEach(), oneThingEach()))
 }
@@ -211,11 +194,6 @@ func noBands() [][][]int {
 		}
 	}
 	return list
-}
-
-// noLevels returns numbers that no level of so many has.
-func noLevels(count int) []int {
-	return []int{-1, -2, -count, -9, math.MinInt, count, count + 1, count + 9, 9, 10, 64, 1 << 32, 1 << 40, math.MaxInt}
 }
 
 func TestLevelsAreKnown(t *testing.T) {
@@ -480,12 +458,12 @@ func TestP24LevelSetEdges(t *testing.T) {
 
 func TestP24LevelSetInvalid(t *testing.T) {
 	for _, k := range leveledBands() {
-		for _, level := range noLevels(k.count()) {
+		for _, level := range outside(k.count()) {
 			wantSet(t, k.table, level, -1)
 		}
 	}
 	for _, x := range noBands() {
-		for _, level := range append(noLevels(1), 0, 2) {
+		for _, level := range append(outside(1), 0, 2) {
 			wantSet(t, x, level, -1)
 		}
 	}
@@ -544,12 +522,12 @@ func TestP25LevelPartEdges(t *testing.T) {
 
 func TestP25LevelPartInvalid(t *testing.T) {
 	for _, k := range leveledBands() {
-		for _, level := range noLevels(k.count()) {
+		for _, level := range outside(k.count()) {
 			wantLevelPart(t, k.table, level, nil)
 		}
 	}
 	for _, x := range noBands() {
-		for _, level := range append(noLevels(1), 0, 2) {
+		for _, level := range append(outside(1), 0, 2) {
 			wantLevelPart(t, x, level, nil)
 		}
 	}
