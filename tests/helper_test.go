@@ -97,6 +97,11 @@ func round(size int) [][]int {
 	return tableBy(size, func(a, b int) int { return (a + b) % size })
 }
 
+// minus has the first thing less the second one as the product.
+func minus(size int) [][]int {
+	return tableBy(size, func(a, b int) int { return (a - b + size) % size })
+}
+
 func least(size int) [][]int {
 	return tableBy(size, func(a, b int) int { return min(a, b) })
 }
@@ -278,8 +283,7 @@ func groupedTables() [][][]int {
 func looseTables() [][][]int {
 	list := [][][]int{{{1, 0}, {0, 0}}, {{0, 0}, {1, 0}}}
 	for size := 3; size <= 9; size++ {
-		less := tableBy(size, func(a, b int) int { return (a - b + size) % size })
-		list = append(list, less, lastBracket(size))
+		list = append(list, minus(size), lastBracket(size))
 	}
 	return list
 }

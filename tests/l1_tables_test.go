@@ -261,7 +261,7 @@ func TestP3ProductsEdges(t *testing.T) {
 		}
 	}
 	// With the last two taken first, 8, 5 and 4 would give 7.
-	less := tableBy(9, func(a, b int) int { return (a - b + 9) % 9 })
+	less := minus(9)
 	if impl.ProductOf(less, []int{8, 5, 4}) != 8 || impl.ProductOf(less, []int{8, 5, 4, 1}) != 7 {
 		t.Fatal("brackets")
 	}
