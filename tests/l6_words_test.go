@@ -762,7 +762,7 @@ func TestP36ValuesBehind(t *testing.T) {
 	}
 }
 
-// In these it is not the product of both values, and not that from the last letter on.
+// Other brackets, or the letters from the last one on, would give other values to most of these.
 func TestP36ValuesOneAfterTheOther(t *testing.T) {
 	less := minus(9)
 	wantValue(t, less, "abc", 8, 5, 4, 8)
@@ -791,7 +791,7 @@ func TestP36ValuesEdges(t *testing.T) {
 			wantValue(t, rectangle(3, 9), word, thing, thing, thing, thing)
 		}
 	}
-	// One letter has its thing as its value, and again and again those of the thing.
+	// The value of one letter is its thing, and of one again and again the product of that thing again and again.
 	for _, x := range someTables() {
 		for thing := range x {
 			other := len(x) - 1 - thing
